@@ -129,12 +129,25 @@ func TestBytesWithoutNumber(t *testing.T) {
 	}
 }
 
+// A wordCase is numbers, and their bytes.
+type wordCase[T comparable] struct {
+	bytes []byte
+	words []T
+}
+
+func (c wordCase[T]) check(t *testing.T, read func([]byte) ([]T, api.Errno), write func([]T) []byte) {
+	t.Helper()
+	if l, e := read(c.bytes); e != api.OK || !slices.Equal(l, c.words) {
+		t.Errorf("% x are read as %v, %d, not %v", c.bytes, l, e, c.words)
+	}
+	if b := write(c.words); !bytes.Equal(b, c.bytes) {
+		t.Errorf("%v are written as % x, not % x", c.words, b, c.bytes)
+	}
+}
+
 // P1.2: numbers of four bytes, the least significant first.
 func TestWords32(t *testing.T) {
-	cases := []struct {
-		bytes []byte
-		words []uint32
-	}{
+	cases := []wordCase[uint32]{
 		{nil, nil},
 		{[]byte{}, nil},
 		{[]byte{1, 0, 0, 0}, []uint32{1}},
@@ -144,21 +157,13 @@ func TestWords32(t *testing.T) {
 		{[]byte{0, 0, 0, 0, 0, 1, 0, 0, 0, 0, 1, 0}, []uint32{0, 0x100, 0x10000}},
 	}
 	for _, c := range cases {
-		if l, e := word.Words32(c.bytes); e != api.OK || !slices.Equal(l, c.words) {
-			t.Errorf("Words32(% x) = %x, %d", c.bytes, l, e)
-		}
-		if b := word.Bytes32(c.words); !bytes.Equal(b, c.bytes) {
-			t.Errorf("Bytes32(%x) = % x", c.words, b)
-		}
+		c.check(t, word.Words32, word.Bytes32)
 	}
 }
 
 // P1.2: numbers of eight bytes, the most significant first.
 func TestWords64(t *testing.T) {
-	cases := []struct {
-		bytes []byte
-		words []uint64
-	}{
+	cases := []wordCase[uint64]{
 		{nil, nil},
 		{[]byte{}, nil},
 		{[]byte{0, 0, 0, 0, 0, 0, 0, 1}, []uint64{1}},
@@ -170,12 +175,7 @@ func TestWords64(t *testing.T) {
 		},
 	}
 	for _, c := range cases {
-		if l, e := word.Words64(c.bytes); e != api.OK || !slices.Equal(l, c.words) {
-			t.Errorf("Words64(% x) = %x, %d", c.bytes, l, e)
-		}
-		if b := word.Bytes64(c.words); !bytes.Equal(b, c.bytes) {
-			t.Errorf("Bytes64(%x) = % x", c.words, b)
-		}
+		c.check(t, word.Words64, word.Bytes64)
 	}
 }
 
